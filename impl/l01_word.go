@@ -36,16 +36,21 @@ func Digits(n int) string {
 	return word(n).digits()
 }
 
-// Number holds s against the digits of what was read, because strconv also reads
-// signs and needless noughts, which no word's digits have.
-func Number(s string) (int, bool) {
+// readWord holds s against the digits of what was read, because strconv also reads
+// a plus ahead, needless noughts and a nought below 0, which no word's digits have.
+func readWord(s string) (word, bool) {
 	n, err := strconv.Atoi(s)
-	if err != nil || n < 0 {
-		return 0, false
-	}
 	w := word(n)
-	if !w.ok() || w.digits() != s {
+	if err != nil || !w.ok() || w.digits() != s {
 		return 0, false
 	}
-	return n, true
+	return w, true
+}
+
+func Number(s string) (int, bool) {
+	w, ok := readWord(s)
+	if !ok || w < 0 {
+		return 0, false
+	}
+	return int(w), true
 }
