@@ -701,7 +701,10 @@ func checkMadeOfGot(t *testing.T, p, x impl.Stx) bool {
 		t.Fatalf("of %v the names %q were got, not %q", p, names, impl.Names(p))
 	}
 	if made := madeOf(t, p, got); !impl.SameStx(made, x) || !alikeStx(made, x) {
-		t.Fatalf("of what was got of %v by %v %v is made", x, p, made)
+		t.Fatalf("of what was got of %s by %s %s is made", shown(x), shown(p), shown(made))
+	}
+	if made, ok := impl.Fill(p, got); !ok || !impl.SameStx(made, x) || !alikeStx(made, x) {
+		t.Fatalf("%s is filled by what it got of %s to %s, %v", shown(p), shown(x), shown(made), ok)
 	}
 	return true
 }
