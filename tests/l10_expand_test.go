@@ -1329,18 +1329,25 @@ func fewPrograms() []string {
 	}
 }
 
-// markParts writes a number of its own into each part, by its place, and whether all of them are there then.
-func markParts(c *impl.Core) bool {
-	parts := partsOf(c)
-	for i, part := range parts {
-		part.N = -1 - i
+// allApart writes a number of its own to each place, and asks whether all of them are there then.
+func allApart(places []*int) bool {
+	for i, place := range places {
+		*place = -1 - i
 	}
-	for i, part := range parts {
-		if part.N != -1-i {
+	for i, place := range places {
+		if *place != -1-i {
 			return false
 		}
 	}
 	return true
+}
+
+func markParts(c *impl.Core) bool {
+	var places []*int
+	for _, part := range partsOf(c) {
+		places = append(places, &part.N)
+	}
+	return allApart(places)
 }
 
 func TestExpandIsNew(t *testing.T) {
