@@ -444,6 +444,8 @@ func (r *irRun) ofKids(x impl.Ir, kids []*irThing, in irFrame) *irThing {
 		return r.of(x.Kids[1+truth(first.kind == impl.VlInt && first.n == 0)], in)
 	case x.Op == impl.IrIsCon:
 		return r.of(x.Kids[1+truth(first.kind != impl.VlPair || first.n != x.N)], in)
+	case x.Op == impl.IrIsNum:
+		return r.of(x.Kids[1+truth(first.kind != impl.VlInt || first.n != x.N)], in)
 	case x.Op == impl.IrField && first.kind == impl.VlPair && x.N < len(first.kids):
 		return first.kids[x.N]
 	case x.Op == impl.IrPut && allInts:
