@@ -216,10 +216,12 @@ func checkGen(t *testing.T, list []impl.Block) ([]impl.Fun, bool) {
 	return got, true
 }
 
-// codeRun runs functions, so that a value that is taken from another place shows in what comes out.
+// codeRun runs functions, so that a value that is taken from another place shows in what comes out. Where there is a see,
+// that is told of each place that is met, with how many values there are.
 type codeRun struct {
 	irRun
 	funs []impl.Fun
+	see  func(number, at, values int)
 }
 
 func (r *codeRun) call(number int, self, argument *irThing) *irThing {
@@ -232,6 +234,9 @@ func (r *codeRun) call(number int, self, argument *irThing) *irThing {
 	for at := 0; ; {
 		if r.left--; r.left < 0 {
 			return r.end(impl.EvFuel)
+		}
+		if r.see != nil {
+			r.see(number, at, len(stack))
 		}
 		o := r.funs[number].List[at]
 		at++
